@@ -51,6 +51,32 @@ func all(r int, c api.Concept) api.Concept {
 	return api.Concept{Op: api.CAll, N: r, Args: []api.Concept{c}}
 }
 
+// A refusal is a pair of arguments with the error that they cause.
+type refusal struct {
+	n    api.Names
+	c    api.Concept
+	want api.Errno
+}
+
+// refused has arguments that every function of a concept refuses.
+func refused() []refusal {
+	return []refusal{
+		{wrong(), name(9), api.ErrBase},
+		{wrong(), some(0, name(0)), api.ErrBase},
+		{names(), name(3), api.ErrConcept},
+		{names(), name(-1), api.ErrConcept},
+		{names(), and(top(), not(name(3))), api.ErrConcept},
+		{names(), some(4, top()), api.ErrConcept},
+		{names(), some(0, all(4, name(0))), api.ErrConcept},
+		{names(), chain(21, someR, name(0)), api.ErrConcept},
+		{names(), chain(22, not, top()), api.ErrConcept},
+		{names(), bushy(201, name(0)), api.ErrConcept},
+		{names(), api.Concept{Op: 8}, api.ErrConcept},
+		{names(), api.Concept{Op: api.CNot}, api.ErrConcept},
+		{names(), api.Concept{Op: api.CTop, N: 1}, api.ErrConcept},
+	}
+}
+
 // equal compares trees without the help of the package.
 func equal(c, d api.Concept) bool {
 	if c.Op != d.Op || c.N != d.N || len(c.Args) != len(d.Args) {

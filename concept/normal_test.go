@@ -88,21 +88,7 @@ func checkLarge(t *testing.T, label string, got api.Concept, e, want api.Errno) 
 
 // P1.2 (and R1): the errors of the arguments come first.
 func TestNormalErrors(t *testing.T) {
-	for _, c := range []struct {
-		n    api.Names
-		c    api.Concept
-		want api.Errno
-	}{
-		{wrong(), name(9), api.ErrBase},
-		{wrong(), name(0), api.ErrBase},
-		{names(), name(3), api.ErrConcept},
-		{names(), and(top(), not(name(3))), api.ErrConcept},
-		{names(), some(4, top()), api.ErrConcept},
-		{names(), chain(22, not, top()), api.ErrConcept},
-		{names(), bushy(300, name(0)), api.ErrConcept},
-		{names(), api.Concept{Op: 8}, api.ErrConcept},
-		{names(), api.Concept{Op: api.CNot}, api.ErrConcept},
-	} {
+	for _, c := range refused() {
 		got, e := concept.Normal(c.n, c.c)
 		expect(t, "Normal", got, e, api.Concept{}, c.want)
 		got, e = concept.Not(c.n, c.c)

@@ -97,18 +97,7 @@ func TestUses(t *testing.T) {
 
 // P1.3 (and R1, R3): errors.
 func TestPartsErrors(t *testing.T) {
-	for _, c := range []struct {
-		n    api.Names
-		c    api.Concept
-		want api.Errno
-	}{
-		{wrong(), name(9), api.ErrBase},
-		{wrong(), some(0, name(0)), api.ErrBase},
-		{names(), and(name(0), name(3)), api.ErrConcept},
-		{names(), some(0, all(4, name(0))), api.ErrConcept},
-		{names(), chain(21, someR, name(0)), api.ErrConcept},
-		{names(), bushy(201, name(0)), api.ErrConcept},
-	} {
+	for _, c := range refused() {
 		l, e := concept.Subs(c.n, c.c)
 		if e != c.want || len(l) > 0 {
 			t.Errorf("Subs of %+v: %v, error %d, not %d", c.c, l, e, c.want)

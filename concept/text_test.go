@@ -46,20 +46,7 @@ func TestStrings(t *testing.T) {
 
 // P1.4: errors of String.
 func TestStringErrors(t *testing.T) {
-	for _, c := range []struct {
-		n    api.Names
-		c    api.Concept
-		want api.Errno
-	}{
-		{wrong(), name(9), api.ErrBase},
-		{wrong(), name(0), api.ErrBase},
-		{names(), name(3), api.ErrConcept},
-		{names(), name(-1), api.ErrConcept},
-		{names(), all(4, top()), api.ErrConcept},
-		{names(), chain(21, not, name(0)), api.ErrConcept},
-		{names(), bushy(201, name(0)), api.ErrConcept},
-		{names(), api.Concept{Op: api.CTop, N: 1}, api.ErrConcept},
-	} {
+	for _, c := range refused() {
 		s, e := concept.String(c.n, c.c)
 		if s != "" || e != c.want {
 			t.Errorf("String of %+v: %q, error %d, not %d", c.c, s, e, c.want)
