@@ -6,6 +6,7 @@ import (
 	"slices"
 
 	"isagoge/api"
+	"isagoge/scan"
 )
 
 // arity is the number of Args of each operator.
@@ -35,7 +36,7 @@ func Names(n api.Names) api.Errno {
 }
 
 func validName(s string) bool {
-	return len(s) <= api.MaxName && isWord(s) && !reserved(s)
+	return len(s) <= api.MaxName && scan.IsName(s)
 }
 
 // Check returns OK if c is a valid concept over n.

@@ -4,6 +4,7 @@ import (
 	"slices"
 
 	"isagoge/api"
+	"isagoge/scan"
 )
 
 // Parse returns the concept whose string is s, apart from blanks.
@@ -34,7 +35,11 @@ func read(n api.Names, s string) (c api.Concept, e api.Errno) {
 			c, e = api.Concept{}, api.ErrText
 		}
 	}()
-	p := &parser{names: n, tokens: tokens(s)}
+	tokens, ok := scan.Tokens(s, "()-")
+	if !ok {
+		panic(api.ErrText)
+	}
+	p := &parser{names: n, tokens: tokens}
 	c = p.concept()
 	if len(p.tokens) > 0 {
 		panic(api.ErrText)
@@ -112,7 +117,7 @@ func (p *parser) connective() int {
 // find returns the position of a name, -1 if it is not in the list, and gives
 // up at a token that cannot be a name.
 func find(list []string, token string) int {
-	if !isWord(token) || reserved(token) {
+	if !scan.IsName(token) {
 		panic(api.ErrText)
 	}
 	return slices.Index(list, token)

@@ -5,6 +5,7 @@ import (
 	"slices"
 
 	"isagoge/api"
+	"isagoge/tree"
 )
 
 // walk yields the nodes of any tree in preorder, each with its level (1 at
@@ -38,19 +39,10 @@ func Subs(n api.Names, c api.Concept) ([]api.Concept, api.Errno) {
 	for _, node := range walk(c) {
 		met := func(part api.Concept) bool { return Same(part, node) }
 		if !slices.ContainsFunc(parts, met) {
-			parts = append(parts, duplicate(node))
+			parts = append(parts, tree.Copy(node))
 		}
 	}
 	return parts, api.OK
-}
-
-// duplicate returns a concept equal to c that shares no memory with it.
-func duplicate(c api.Concept) api.Concept {
-	d := api.Concept{Op: c.Op, N: c.N}
-	for _, arg := range c.Args {
-		d.Args = append(d.Args, duplicate(arg))
-	}
-	return d
 }
 
 // Uses returns the concept names and role names that occur in c, in

@@ -1,30 +1,36 @@
-package concept
+// Package scan divides strings into tokens, for all layers that read strings.
+package scan
 
 import (
-	"isagoge/api"
+	"strings"
 )
 
-// tokens returns the tokens of s, and gives up at a byte that belongs to none.
-func tokens(s string) []string {
+// Tokens returns the tokens of s, and false if a byte of s belongs to none: the
+// tokens are words, and each byte of marks by itself. Blanks are left out.
+func Tokens(s, marks string) ([]string, bool) {
 	var list []string
 	for at := 0; at < len(s); {
-		end := tokenEnd(s, at)
+		end := tokenEnd(s, at, marks)
+		if end == at {
+			return nil, false
+		}
 		if s[at] != ' ' {
 			list = append(list, s[at:end])
 		}
 		at = end
 	}
-	return list
+	return list, true
 }
 
 // tokenEnd returns the end of the token, or of the blank, that begins at a
-// position of s.
-func tokenEnd(s string, at int) int {
-	switch first := s[at]; {
-	case first == ' ' || first == '(' || first == ')' || first == '-':
+// position of s: the position itself if there is none.
+func tokenEnd(s string, at int, marks string) int {
+	first := s[at]
+	if first == ' ' || strings.IndexByte(marks, first) >= 0 {
 		return at + 1
-	case !isLetter(first):
-		panic(api.ErrText)
+	}
+	if !isLetter(first) {
+		return at
 	}
 	end := at + 1
 	for end < len(s) && inWord(s[end]) {
@@ -33,8 +39,12 @@ func tokenEnd(s string, at int) int {
 	return end
 }
 
-// isWord reports whether s is a letter, followed by letters, digits and
-// underscores.
+// IsName reports whether s is a word that may be a name: a letter, followed by
+// letters, digits and underscores, and not a reserved word.
+func IsName(s string) bool {
+	return isWord(s) && !reserved(s)
+}
+
 func isWord(s string) bool {
 	if s == "" || !isLetter(s[0]) {
 		return false
