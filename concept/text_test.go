@@ -220,8 +220,12 @@ func TestStringOfAllNames(t *testing.T) {
 		expect(t, s, got, e, name(k), api.OK)
 	}
 	for k, s := range n.Roles {
-		got, e := concept.Parse(n, "(some "+s+" top or all "+s+"- bot)")
+		text := "(some " + s + " top or all " + s + "- bot)"
+		got, e := concept.Parse(n, text)
 		expect(t, s, got, e, or(some(2*k, top()), all(2*k+1, bot())), api.OK)
+		if back, e := concept.String(n, got); back != text || e != api.OK {
+			t.Errorf("String of %s: %q, error %d", text, back, e)
+		}
 	}
 	for _, s := range n.Inds {
 		got, e := concept.Parse(n, s)

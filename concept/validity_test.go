@@ -204,6 +204,21 @@ func TestSize(t *testing.T) {
 	}
 }
 
+// P1, P1.1: the size and the equality of trees that are far beyond the limits.
+func TestLargeTrees(t *testing.T) {
+	deep := []api.Concept{chain(1<<16, not, top()), chain(1<<16, someR, top()), {Args: make([]api.Concept, 1000000)}}
+	for i, c := range deep {
+		if nodes, _ := concept.Size(c); nodes < 1<<16 {
+			t.Errorf("Size: %d nodes", nodes)
+		}
+		for k, d := range deep {
+			if concept.Same(c, d) != (i == k) {
+				t.Errorf("Same of %d and %d", i, k)
+			}
+		}
+	}
+}
+
 // P1.1: Same compares any trees, field by field.
 func TestSame(t *testing.T) {
 	different := []api.Concept{
