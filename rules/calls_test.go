@@ -7,6 +7,7 @@ import (
 	"reflect"
 	"testing"
 
+	"isagoge/bisim"
 	"isagoge/concept"
 	"isagoge/interp"
 	"isagoge/kb"
@@ -47,6 +48,13 @@ func calls() []call {
 		{"interp.Models", interp.Models},
 		{"interp.Wrong", interp.Wrong},
 		{"interp.Included", interp.Included},
+
+		{"bisim.Classes", bisim.Classes},
+		{"bisim.Bisimilar", bisim.Bisimilar},
+		{"bisim.Quotient", bisim.Quotient},
+		{"bisim.Union", bisim.Union},
+		{"bisim.Part", bisim.Part},
+		{"bisim.Apart", bisim.Apart},
 	}
 }
 

@@ -3,6 +3,7 @@ package rules_test
 import (
 	"fmt"
 	"reflect"
+	"slices"
 	"testing"
 
 	"isagoge/api"
@@ -25,6 +26,11 @@ func unchanged(v reflect.Value) reflect.Value {
 func errorOf(results []any) api.Errno {
 	e, _ := results[len(results)-1].(api.Errno)
 	return e
+}
+
+// failed reports whether results contain an error, or a false.
+func failed(results []any) bool {
+	return errorOf(results) != api.OK || slices.Contains(results, any(false))
 }
 
 // described returns a call as a short string.
@@ -83,7 +89,7 @@ func TestValidArguments(t *testing.T) {
 	}
 }
 
-// R3 and R7: results next to an error are zero values, and a call that is
+// R3 and R7: results next to an error or a false are zero values, and a call that is
 // repeated returns the same.
 func TestRepeatedCalls(t *testing.T) {
 	p := usual()
@@ -95,8 +101,8 @@ func TestRepeatedCalls(t *testing.T) {
 				t.Errorf("%s: %v, then %v", described(c, arguments), first, second)
 			}
 			for _, v := range first[:len(first)-1] {
-				if errorOf(first) != api.OK && !empty(v) {
-					t.Errorf("%s: %v with an error", described(c, arguments), first)
+				if failed(first) && !empty(v) {
+					t.Errorf("%s: %v with an error or with false", described(c, arguments), first)
 				}
 			}
 		})
