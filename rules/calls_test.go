@@ -9,6 +9,7 @@ import (
 
 	"isagoge/bisim"
 	"isagoge/concept"
+	"isagoge/hier"
 	"isagoge/interp"
 	"isagoge/kb"
 )
@@ -55,6 +56,11 @@ func calls() []call {
 		{"bisim.Union", bisim.Union},
 		{"bisim.Part", bisim.Part},
 		{"bisim.Apart", bisim.Apart},
+
+		{"hier.Below", hier.Below},
+		{"hier.Above", hier.Above},
+		{"hier.Marks", hier.Marks},
+		{"hier.True", hier.True},
 	}
 }
 

@@ -61,7 +61,7 @@ func invalid(samples []sample) api.Errno {
 	switch {
 	case of(reflect.TypeFor[api.Names](), reflect.TypeFor[api.Base]()):
 		return api.ErrBase
-	case of(reflect.TypeFor[api.Concept]()):
+	case of(reflect.TypeFor[api.Concept](), reflect.TypeFor[[]api.Concept]()):
 		return api.ErrConcept
 	case of(reflect.TypeFor[api.Interp]()):
 		return api.ErrInterp

@@ -93,6 +93,7 @@ func usual() pool {
 	p := pool{}
 	addNames(p)
 	addConcepts(p)
+	addLists(p)
 	addBases(p)
 	addInterps(p)
 	add(p, true, math.MinInt, -1, 0, 1, 3, 5, 11, 12, math.MaxInt)
@@ -116,6 +117,15 @@ func addConcepts(p pool) {
 	add(p, false,
 		api.Concept{N: 3}, api.Concept{N: -1}, api.Concept{Op: 8}, api.Concept{Op: -1}, api.Concept{Op: api.CNot}, api.Concept{Op: api.CBot, N: 1},
 		api.Concept{Op: api.CAll, N: 4, Args: []api.Concept{of("A")}}, api.Concept{Op: api.CNot, Args: []api.Concept{{N: 3}}}, nested(api.CNot, 21), bushy(201))
+}
+
+// addLists adds lists of concepts: also one that shares memory within itself,
+// and ones with negation normal forms that are too large.
+func addLists(p pool) {
+	a, inverse := of("A"), of("some r- (A and B)")
+	add(p, true, nil, []api.Concept{a}, []api.Concept{of("all r- not (A and B)"), inverse, inverse, of("top")}, []api.Concept{of("not bot"), bushy(200)},
+		[]api.Concept{{Op: api.CAll, Args: []api.Concept{bushy(199)}}}, []api.Concept{nested(api.CSome, 20)})
+	add(p, false, []api.Concept{{N: 3}}, []api.Concept{a, {Op: 8}, a}, []api.Concept{inverse, nested(api.CNot, 21)}, []api.Concept{bushy(201), bushy(200)})
 }
 
 func addBases(p pool) {
@@ -169,6 +179,7 @@ func hostile() pool {
 	many := 100000
 	add(p, false, api.Names{Concepts: make([]string, many)}, api.Names{Inds: []string{strings.Repeat("a", 1<<20)}}, api.Names{Roles: []string{"\xff\x00"}})
 	add(p, false, hostileConcepts(many)...)
+	add(p, false, hostileConcepts(many), make([]api.Concept, many/100), slices.Repeat([]api.Concept{bushy(200)}, many/1000))
 	add(p, false, hostileBases(many)...)
 	add(p, false, hostileInterps(many)...)
 	add(p, false, math.MinInt+1, math.MaxInt-1, math.MaxInt/2+1, -math.MaxInt/2)
