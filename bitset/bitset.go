@@ -10,7 +10,7 @@ import (
 )
 
 // Limit is the number of numbers that a set may contain: it has room for the
-// elements of every interpretation.
+// elements of every interpretation, and for all types of MaxMarks marks.
 const Limit = api.MaxDomain
 
 const wordSize = 64
@@ -71,6 +71,15 @@ func (s Set[E]) Within(t Set[E]) bool {
 // Meets reports whether some number is in both.
 func (s Set[E]) Meets(t Set[E]) bool {
 	return s.And(t) != Set[E]{}
+}
+
+// Len returns how many numbers are in s.
+func (s Set[E]) Len() int {
+	count := 0
+	for _, word := range s {
+		count += bits.OnesCount64(word)
+	}
+	return count
 }
 
 // All yields the numbers of s in increasing order.

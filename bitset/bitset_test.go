@@ -71,6 +71,9 @@ func TestNumbers(t *testing.T) {
 		s := of(list)
 		expect(t, "the same numbers", s, list)
 		expect(t, "all that it has", s, chosen(s.Has))
+		if s.Len() != len(list) {
+			t.Errorf("Len of %v: %d", list, s.Len())
+		}
 	}
 }
 

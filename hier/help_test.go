@@ -210,6 +210,6 @@ func text(l []api.Concept) string {
 func expect(t *testing.T, label string, got any, e api.Errno, want any, wantError api.Errno) {
 	t.Helper()
 	if shown(got) != shown(want) || e != wantError {
-		t.Errorf("%s: %.500v, error %d, not %.500v, error %d", label, got, e, want, wantError)
+		t.Errorf("%s: %.500s, error %d, not %.500s, error %d", label, shown(got), e, shown(want), wantError)
 	}
 }

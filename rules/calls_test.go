@@ -12,6 +12,7 @@ import (
 	"isagoge/hier"
 	"isagoge/interp"
 	"isagoge/kb"
+	"isagoge/types"
 )
 
 // A call is an exported function of a layer.
@@ -61,6 +62,13 @@ func calls() []call {
 		{"hier.Above", hier.Above},
 		{"hier.Marks", hier.Marks},
 		{"hier.True", hier.True},
+
+		{"types.Possible", types.Possible},
+		{"types.Surviving", types.Surviving},
+		{"types.Satisfiable", types.Satisfiable},
+		{"types.Assign", types.Assign},
+		{"types.Consistent", types.Consistent},
+		{"types.Model", types.Model},
 	}
 }
 

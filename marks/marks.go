@@ -1,25 +1,46 @@
-package hier
+// Package marks has the marks of knowledge bases, and the truth of concepts in
+// types, for all layers that deal with types.
+package marks
 
 import (
 	"slices"
 
 	"isagoge/api"
 	"isagoge/bitset"
+	"isagoge/concept"
+	"isagoge/kb"
 	"isagoge/tree"
 )
 
-// A table has the marks of a knowledge base with further concepts.
-type table struct {
+// A Table has the marks of a knowledge base with further concepts.
+type Table struct {
 	names api.Names
 	marks []api.Concept
 	// place has the position of each mark by its string.
 	place map[string]int
+	// types are all types, and owners has, for each mark, those that contain it.
+	types  Set
+	owners []Set
 }
 
-// tableOf returns the marks of b with further concepts, all of them valid, or
-// ErrSpace. Marks that are too large for a concept are among them.
-func tableOf(b api.Base, more []api.Concept) (*table, api.Errno) {
-	t := &table{names: b.Names, place: map[string]int{}}
+// Check returns ErrBase or ErrConcept if b or one of the concepts is not valid.
+func Check(b api.Base, concepts []api.Concept) api.Errno {
+	if e := kb.Check(b); e != api.OK {
+		return e
+	}
+	for _, c := range concepts {
+		if e := concept.Check(b.Names, c); e != api.OK {
+			return e
+		}
+	}
+	return api.OK
+}
+
+// Of returns the marks of b with further concepts, all of them valid, or
+// ErrSpace. Marks that are too large for a concept are among them: a type
+// contains only their numbers.
+func Of(b api.Base, more []api.Concept) (*Table, api.Errno) {
+	t := &Table{names: b.Names, place: map[string]int{}}
 	sources := slices.Concat(conceptsOf(b), more)
 	for name := range namesIn(sources).All() {
 		t.add(api.Concept{Op: api.CName, N: name})
@@ -35,17 +56,23 @@ func tableOf(b api.Base, more []api.Concept) (*table, api.Errno) {
 			return nil, api.ErrSpace
 		}
 	}
+	t.addTypes()
 	return t, api.OK
 }
 
+// Marks returns the marks, each at the position of its number.
+func (t *Table) Marks() []api.Concept {
+	return t.marks
+}
+
 // placeOf returns the position of a mark, and false if the table lacks it.
-func (t *table) placeOf(mark api.Concept) (int, bool) {
+func (t *Table) placeOf(mark api.Concept) (int, bool) {
 	place, known := t.place[tree.String(t.names, mark)]
 	return place, known
 }
 
 // add adds a mark, unless it is there already.
-func (t *table) add(mark api.Concept) {
+func (t *Table) add(mark api.Concept) {
 	if _, known := t.placeOf(mark); !known {
 		t.place[tree.String(t.names, mark)] = len(t.marks)
 		t.marks = append(t.marks, mark)
