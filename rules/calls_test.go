@@ -12,6 +12,7 @@ import (
 	"isagoge/hier"
 	"isagoge/interp"
 	"isagoge/kb"
+	"isagoge/proof"
 	"isagoge/types"
 )
 
@@ -69,6 +70,10 @@ func calls() []call {
 		{"types.Assign", types.Assign},
 		{"types.Consistent", types.Consistent},
 		{"types.Model", types.Model},
+
+		{"proof.Check", proof.Check},
+		{"proof.Fault", proof.Fault},
+		{"proof.Uses", proof.Uses},
 	}
 }
 
@@ -78,6 +83,7 @@ func treeCalls() []call {
 	return []call{
 		{"concept.Size", concept.Size},
 		{"concept.Same", concept.Same},
+		{"proof.Size", proof.Size},
 	}
 }
 

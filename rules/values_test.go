@@ -96,6 +96,7 @@ func usual() pool {
 	addLists(p)
 	addBases(p)
 	addInterps(p)
+	addProofs(p)
 	add(p, true, math.MinInt, -1, 0, 1, 3, 5, 11, 12, math.MaxInt)
 	add(p, true, nil, []int{0}, []int{0, 2}, []int{0, 1, 4, 6, 9, 11}, []int{2, 2}, []int{-1})
 	add(p, true, "", "A", "some r- (A or B)", "C", "A B", declared+fullText, "concept A\n!", "A < B\nconcept A", strings.Repeat("A", api.MaxText+1))
@@ -133,7 +134,7 @@ func addBases(p pool) {
 	shared := fresh()
 	shared.Incls[2] = shared.Incls[0]
 	shared.Facts[2].Concept = shared.Incls[0].Super
-	add(p, true, fresh(), shared, based(""), based("A < some r B\n"), based(strings.Repeat("(b_1, a) : s_2\n", api.MaxAxioms)))
+	add(p, true, fresh(), shared, based(""), based("A < some r B\n"), based("A < B\na : A\na : not B\n"), based(strings.Repeat("(b_1, a) : s_2\n", api.MaxAxioms)))
 	add(p, false, changed(fresh,
 		func(b *api.Base) { b.Names.Concepts[2] = "A" },
 		func(b *api.Base) { b.Names.Inds[0] = "top" },
@@ -173,6 +174,19 @@ func addInterps(p pool) {
 	)...)
 }
 
+// addProofs adds proofs for one of the knowledge bases of the pool: one of them
+// shares memory within itself.
+func addProofs(p pool) {
+	leaf := func(s string) api.Proof { return api.Proof{Concept: of(s)} }
+	fresh := func(left, right api.Proof) api.Proof {
+		cases := api.Proof{Rule: api.ROr, Concept: of("(not A or B)"), Subs: []api.Proof{left, right}}
+		return api.Proof{Rule: api.RIncl, Subs: []api.Proof{cases}}
+	}
+	shared := fresh(leaf("A"), fresh(leaf("A"), leaf("B")))
+	shared.Subs[0].Subs[1].Subs[0].Concept = shared.Subs[0].Concept
+	add(p, true, api.Proof{}, leaf("A"), fresh(leaf("A"), leaf("B")), shared, fresh(leaf("A"), leaf("A")), fresh(leaf("bot"), leaf("B")))
+}
+
 // hostile has arguments that no call may stumble over.
 func hostile() pool {
 	p := usual()
@@ -182,6 +196,7 @@ func hostile() pool {
 	add(p, false, hostileConcepts(many), make([]api.Concept, many/100), slices.Repeat([]api.Concept{bushy(200)}, many/1000))
 	add(p, false, hostileBases(many)...)
 	add(p, false, hostileInterps(many)...)
+	add(p, false, hostileProofs(many)...)
 	add(p, false, math.MinInt+1, math.MaxInt-1, math.MaxInt/2+1, -math.MaxInt/2)
 	add(p, false, []int{math.MaxInt}, []int{math.MinInt}, make([]int, many))
 	add(p, false,
@@ -233,4 +248,24 @@ func hostileInterps(many int) []api.Interp {
 		func(i *api.Interp) { i.Roles = make([][][2]int, many) },
 		func(i *api.Interp) { i.Inds = make([]int, many) },
 	), api.Interp{}, api.Interp{Size: 1})
+}
+
+func hostileProofs(many int) []api.Proof {
+	shared, nested := api.Proof{Rule: api.ROr}, api.Proof{Rule: api.RIncl}
+	for range 60 {
+		shared.Subs = []api.Proof{shared, shared}
+	}
+	for range 1<<16 - 1 {
+		nested.Subs = []api.Proof{nested}
+	}
+	l := []api.Proof{
+		{Rule: math.MinInt}, {Rule: math.MaxInt}, {X: math.MinInt}, {X: math.MaxInt}, {Rule: api.RAll, Y: math.MaxInt}, {Rule: api.RIncl, N: math.MaxInt}, {Rule: api.RIncl, N: math.MinInt},
+		{Rule: api.RIncl, Subs: make([]api.Proof, many)}, nested, shared,
+	}
+	for _, c := range hostileConcepts(many) {
+		for rule := range 6 {
+			l = append(l, api.Proof{Rule: rule, Concept: c, Subs: make([]api.Proof, 1)})
+		}
+	}
+	return l
 }
