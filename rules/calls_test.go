@@ -13,6 +13,7 @@ import (
 	"isagoge/interp"
 	"isagoge/kb"
 	"isagoge/proof"
+	"isagoge/search"
 	"isagoge/types"
 )
 
@@ -74,6 +75,10 @@ func calls() []call {
 		{"proof.Check", proof.Check},
 		{"proof.Fault", proof.Fault},
 		{"proof.Uses", proof.Uses},
+
+		{"search.Search", search.Search},
+		{"search.Right", search.Right},
+		{"search.Shorter", search.Shorter},
 	}
 }
 

@@ -97,6 +97,7 @@ func usual() pool {
 	addBases(p)
 	addInterps(p)
 	addProofs(p)
+	addAnswers(p)
 	add(p, true, math.MinInt, -1, 0, 1, 3, 5, 11, 12, math.MaxInt)
 	add(p, true, nil, []int{0}, []int{0, 2}, []int{0, 1, 4, 6, 9, 11}, []int{2, 2}, []int{-1})
 	add(p, true, "", "A", "some r- (A or B)", "C", "A B", declared+fullText, "concept A\n!", "A < B\nconcept A", strings.Repeat("A", api.MaxText+1))
@@ -187,6 +188,17 @@ func addProofs(p pool) {
 	add(p, true, api.Proof{}, leaf("A"), fresh(leaf("A"), leaf("B")), shared, fresh(leaf("A"), leaf("A")), fresh(leaf("bot"), leaf("B")))
 }
 
+// addAnswers adds answers with the interpretations and the proofs of the pool.
+func addAnswers(p pool) {
+	add(p, true, api.Answer{}, api.Answer{Known: true}, api.Answer{Consistent: true})
+	for _, s := range p[reflect.TypeFor[api.Interp]()] {
+		add(p, true, api.Answer{Known: true, Consistent: true, Model: s.value.Interface().(api.Interp)})
+	}
+	for _, s := range p[reflect.TypeFor[api.Proof]()] {
+		add(p, true, api.Answer{Known: true, Proof: s.value.Interface().(api.Proof)})
+	}
+}
+
 // hostile has arguments that no call may stumble over.
 func hostile() pool {
 	p := usual()
@@ -197,6 +209,7 @@ func hostile() pool {
 	add(p, false, hostileBases(many)...)
 	add(p, false, hostileInterps(many)...)
 	add(p, false, hostileProofs(many)...)
+	addAnswers(p)
 	add(p, false, math.MinInt+1, math.MaxInt-1, math.MaxInt/2+1, -math.MaxInt/2)
 	add(p, false, []int{math.MaxInt}, []int{math.MinInt}, make([]int, many))
 	add(p, false,

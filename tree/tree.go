@@ -17,6 +17,12 @@ var duals = [...]int{
 	api.CAll:  api.CSome,
 }
 
+// Dual returns the operator that negation exchanges with op, which is none of
+// CName and CNot.
+func Dual(op int) int {
+	return duals[op]
+}
+
 // Copy returns a concept equal to c that shares no memory with it.
 func Copy(c api.Concept) api.Concept {
 	d := api.Concept{Op: c.Op, N: c.N}

@@ -37,3 +37,11 @@ func TestCopyOfShared(t *testing.T) {
 		t.Errorf("both sides share memory: %v", d)
 	}
 }
+
+func TestDual(t *testing.T) {
+	for _, pair := range [][2]int{{api.CTop, api.CBot}, {api.CAnd, api.COr}, {api.CSome, api.CAll}} {
+		if tree.Dual(pair[0]) != pair[1] || tree.Dual(pair[1]) != pair[0] {
+			t.Errorf("%d and %d are no duals", pair[0], pair[1])
+		}
+	}
+}
