@@ -235,8 +235,8 @@ func TestRefutedNodes(t *testing.T) {
 	twice := func(c string) string { return "(" + c + " or (" + c + " and " + c + "))" }
 	for _, axioms := range []string{
 		"a : not A;a : (some r " + twice("all r- A") + " or C);b : A;b : some r " + twice("all r- A"),
-		"D < D;(a, b) : r;a : D;a : (" + twice("all r bot") + " or C);c : D;c : (" + twice("all r bot") + " or some s bot)",
-		"D < D;(b, a) : r;a : D;a : (" + twice("all r- bot") + " or C);c : D;c : (" + twice("all r- bot") + " or some s bot)",
+		"D < D;(a, b) : r;a : D;a : (" + twice("all r bot") + " or C);c : D;c : ((A and " + twice("all r bot") + ") or some s bot)",
+		"D < D;(b, a) : r;a : D;a : (" + twice("all r- bot") + " or C);c : D;c : ((A and " + twice("all r- bot") + ") or some s bot)",
 	} {
 		b := parsed(declared + "concept D;ind c;" + axioms + many)
 		expectVerdict(t, b, api.MaxSteps, true)
