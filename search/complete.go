@@ -23,6 +23,10 @@ type edge struct {
 	from, role, to int
 }
 
+// glances is how many nodes of a selection count as much as another look: most of
+// them are quickly seen not to suit.
+const glances = 16
+
 func (l *selection) take(x int) {
 	l.nodes = append(l.nodes, x)
 	l.isIn[x] = true
@@ -80,9 +84,10 @@ func (s *search) supplyAll(chosen *selection, x int) (move, bool) {
 	return move{}, false
 }
 
-// supply looks for the neighbor that p, in the label of x, asks for: among those
-// of the graph, or with a further edge. A node that was added for x is not needed
-// if another one has become like it.
+// supply looks for the neighbor that p, in the label of x, asks for: in the
+// selection, with an edge of the graph or with a further one, and then among the
+// nodes that were added for x. These are not needed if others can stand for them,
+// although that may become known only after they were added.
 func (s *search) supply(chosen *selection, x int, p part) bool {
 	child, hasChild := 0, false
 	for y := range s.neighbors(x, p.n) {
@@ -95,16 +100,14 @@ func (s *search) supply(chosen *selection, x int, p part) bool {
 		}
 		child, hasChild = y.node, true
 	}
-	suits := func(y int) bool {
-		if hasChild {
-			return s.labels[y].isLike(&s.labels[child])
+	for k, y := range chosen.nodes {
+		if k%glances == 0 {
+			s.work()
 		}
-		s.work()
-		return s.holds(y, p.left, 0) && s.admits(x, p.n, y) && s.admits(y, inverse(p.n), x)
-	}
-	if k := slices.IndexFunc(chosen.nodes, suits); k >= 0 {
-		chosen.edges = append(chosen.edges, edge{x, p.n, chosen.nodes[k]})
-		return true
+		if s.holds(y, p.left, 0) && s.admits(x, p.n, y) && s.admits(y, inverse(p.n), x) {
+			chosen.edges = append(chosen.edges, edge{x, p.n, y})
+			return true
+		}
 	}
 	if hasChild {
 		chosen.take(child)

@@ -2,7 +2,6 @@ package search
 
 import (
 	"iter"
-	"slices"
 
 	"isagoge/api"
 	"isagoge/hier"
@@ -31,8 +30,6 @@ type label struct {
 	// lists has the concepts of the label by their operators, in the order in
 	// which they were added.
 	lists [api.CAll + 1][]int
-	// print is the same number for labels with the same concepts.
-	print uint64
 	// birth is the position on the trail of the node itself.
 	birth int
 	// isSettled is whether nothing has changed in the label, or in that of a
@@ -111,25 +108,6 @@ func (g *graph) position(x, c int) int {
 	return g.labels[x].at[c] - 1
 }
 
-// isLike reports whether two labels have the same concepts.
-func (l *label) isLike(m *label) bool {
-	if l.print != m.print {
-		return false
-	}
-	for op, list := range l.lists {
-		if len(list) != len(m.lists[op]) || slices.ContainsFunc(list, func(c int) bool { return m.at[c] == 0 }) {
-			return false
-		}
-	}
-	return true
-}
-
-// mixed returns a number whose bits are like random ones.
-func mixed(c int) uint64 {
-	x := uint64(c+1) * 0x9e3779b97f4a7c15
-	return x ^ x>>29
-}
-
 // neighbors yields the neighbors of x for a role.
 func (g *graph) neighbors(x, role int) iter.Seq[neighbor] {
 	return func(yield func(neighbor) bool) {
@@ -175,7 +153,6 @@ func (g *graph) add(x, c int) {
 	l.at[c] = len(g.trail)
 	op := g.list[c].op
 	l.lists[op] = append(l.lists[op], c)
-	l.print ^= mixed(c)
 	g.unsettle(x)
 }
 
@@ -204,7 +181,6 @@ func (g *graph) undo(length int) {
 			l.at[last.concept] = 0
 			op := g.list[last.concept].op
 			l.lists[op] = withoutLast(l.lists[op])
-			l.print ^= mixed(last.concept)
 			g.unsettle(last.x)
 		}
 	}
