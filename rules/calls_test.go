@@ -14,6 +14,7 @@ import (
 	"isagoge/kb"
 	"isagoge/proof"
 	"isagoge/search"
+	"isagoge/task"
 	"isagoge/types"
 )
 
@@ -79,6 +80,12 @@ func calls() []call {
 		{"search.Search", search.Search},
 		{"search.Right", search.Right},
 		{"search.Shorter", search.Shorter},
+
+		{"task.Test", task.Test},
+		{"task.Entails", task.Entails},
+		{"task.Right", task.Right},
+		{"task.Axiom", task.Axiom},
+		{"task.Classify", task.Classify},
 	}
 }
 

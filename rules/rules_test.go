@@ -65,6 +65,8 @@ func invalid(samples []sample) api.Errno {
 		return api.ErrConcept
 	case of(reflect.TypeFor[api.Interp]()):
 		return api.ErrInterp
+	case of(reflect.TypeFor[api.Axiom]()):
+		return api.ErrArg
 	}
 	return api.OK
 }

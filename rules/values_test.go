@@ -8,6 +8,7 @@ import (
 
 	"isagoge/api"
 	"isagoge/kb"
+	"isagoge/task"
 )
 
 // A sample is an argument for a call.
@@ -98,6 +99,7 @@ func usual() pool {
 	addInterps(p)
 	addProofs(p)
 	addAnswers(p)
+	addAxioms(p)
 	add(p, true, math.MinInt, -1, 0, 1, 3, 5, 11, 12, math.MaxInt)
 	add(p, true, nil, []int{0}, []int{0, 2}, []int{0, 1, 4, 6, 9, 11}, []int{2, 2}, []int{-1})
 	add(p, true, "", "A", "some r- (A or B)", "C", "A B", declared+fullText, "concept A\n!", "A < B\nconcept A", strings.Repeat("A", api.MaxText+1))
@@ -188,15 +190,33 @@ func addProofs(p pool) {
 	add(p, true, api.Proof{}, leaf("A"), fresh(leaf("A"), leaf("B")), shared, fresh(leaf("A"), leaf("A")), fresh(leaf("bot"), leaf("B")))
 }
 
-// addAnswers adds answers with the interpretations and the proofs of the pool.
+// addAnswers adds answers and verdicts with the interpretations and the proofs
+// of the pool.
 func addAnswers(p pool) {
 	add(p, true, api.Answer{}, api.Answer{Known: true}, api.Answer{Consistent: true})
+	add(p, true, task.Verdict{}, task.Verdict{Known: true}, task.Verdict{Holds: true})
 	for _, s := range p[reflect.TypeFor[api.Interp]()] {
-		add(p, true, api.Answer{Known: true, Consistent: true, Model: s.value.Interface().(api.Interp)})
+		i := s.value.Interface().(api.Interp)
+		add(p, true, api.Answer{Known: true, Consistent: true, Model: i})
+		add(p, true, task.Verdict{Known: true, Counter: i})
 	}
 	for _, s := range p[reflect.TypeFor[api.Proof]()] {
-		add(p, true, api.Answer{Known: true, Proof: s.value.Interface().(api.Proof)})
+		q := s.value.Interface().(api.Proof)
+		add(p, true, api.Answer{Known: true, Proof: q})
+		add(p, true, task.Verdict{Known: true, Holds: true, Proof: q})
 	}
+}
+
+func addAxioms(p pool) {
+	a, large := of("A"), bushy(200)
+	add(p, true,
+		api.Axiom{Kind: api.AIncl, Incl: api.Incl{Sub: a, Super: of("some r B")}}, api.Axiom{Kind: api.AIncl, Incl: api.Incl{Sub: large, Super: large}}, api.Axiom{Kind: api.AIncl, Incl: api.Incl{Sub: of("bot"), Super: a}},
+		api.Axiom{Kind: api.ARole, Role: api.RoleIncl{Sub: 3, Super: 0}}, api.Axiom{Kind: api.ARole},
+		api.Axiom{Kind: api.AFact, Fact: api.Fact{Ind: 1, Concept: of("not C1")}}, api.Axiom{Kind: api.AFact, Fact: api.Fact{Concept: large}},
+		api.Axiom{Kind: api.ALink, Link: api.Link{Role: 1, From: 1}}, api.Axiom{Kind: api.ALink})
+	add(p, false,
+		api.Axiom{Kind: 4}, api.Axiom{Kind: -1}, api.Axiom{Kind: api.AIncl, Incl: api.Incl{Sub: a, Super: bushy(201)}}, api.Axiom{Kind: api.ARole, Role: api.RoleIncl{Sub: 4}},
+		api.Axiom{Kind: api.AFact, Fact: api.Fact{Ind: 2, Concept: a}}, api.Axiom{Kind: api.ALink, Link: api.Link{To: -1}}, api.Axiom{Kind: api.ALink, Fact: api.Fact{Ind: 1}}, api.Axiom{Kind: api.AFact, Incl: api.Incl{Super: of("top")}})
 }
 
 // hostile has arguments that no call may stumble over.
@@ -210,6 +230,7 @@ func hostile() pool {
 	add(p, false, hostileInterps(many)...)
 	add(p, false, hostileProofs(many)...)
 	addAnswers(p)
+	add(p, false, hostileAxioms(many)...)
 	add(p, false, math.MinInt+1, math.MaxInt-1, math.MaxInt/2+1, -math.MaxInt/2)
 	add(p, false, []int{math.MaxInt}, []int{math.MinInt}, make([]int, many))
 	add(p, false,
@@ -241,6 +262,19 @@ func hostileBases(many int) []api.Base {
 	}
 	for _, c := range hostileConcepts(many) {
 		l = append(l, api.Base{Names: n, Incls: []api.Incl{{Sub: c}}}, api.Base{Names: n, Incls: []api.Incl{{Super: c}}}, api.Base{Names: n, Facts: []api.Fact{{Concept: c}}})
+	}
+	return l
+}
+
+func hostileAxioms(many int) []api.Axiom {
+	l := []api.Axiom{
+		{Kind: math.MinInt}, {Kind: math.MaxInt}, {Kind: api.ARole, Role: api.RoleIncl{Sub: math.MaxInt, Super: math.MinInt}}, {Kind: api.ALink, Link: api.Link{Role: math.MaxInt, From: math.MinInt, To: math.MaxInt}},
+		{Kind: api.AFact, Fact: api.Fact{Ind: math.MaxInt, Concept: api.Concept{Op: api.CTop}}},
+	}
+	for _, c := range hostileConcepts(many) {
+		for kind := range 4 {
+			l = append(l, api.Axiom{Kind: kind, Incl: api.Incl{Super: c}}, api.Axiom{Kind: kind, Incl: api.Incl{Sub: c, Super: c}}, api.Axiom{Kind: kind, Fact: api.Fact{Concept: c}})
+		}
 	}
 	return l
 }
